@@ -6,6 +6,7 @@ import (
 	"testing"
 
 	"dunnage/api"
+	"dunnage/crashes"
 )
 
 // P1
@@ -96,28 +97,18 @@ func TestCrashWithinACommit(t *testing.T) {
 	wantError(t, "Commit", c.Commit(), api.OK)
 	after := told(t, l)
 	seen := [2]int{}
-	for k := from; k <= l.Disk().Ops(); k++ {
-		cut, _ := l.Disk().Cut(k)
-		_, waits := cut.Waiting()
-		for kept := range 1 << len(waits) { // of each sector at most one write waits
-			keep := make([]int, len(waits))
-			for i := range keep {
-				keep[i] = kept >> i & 1
-			}
-			left, e := cut.Crash(keep...)
-			wantError(t, "Crash", e, api.OK)
-			got := told(t, reopened(t, left, 3))
-			switch {
-			case slices.Equal(got, before):
-				seen[0]++
-			case slices.Equal(got, after):
-				seen[1]++
-			default:
-				t.Errorf("behind op %d: %v", k-from, got)
-			}
-			if k == l.Disk().Ops() && !slices.Equal(got, after) {
-				t.Error("what was answered is gone")
-			}
+	for k, left := range crashes.Behind(l.Disk(), from) {
+		got := told(t, reopened(t, left, 3))
+		switch {
+		case slices.Equal(got, before):
+			seen[0]++
+		case slices.Equal(got, after):
+			seen[1]++
+		default:
+			t.Errorf("behind op %d: %v", k-from, got)
+		}
+		if k == l.Disk().Ops() && !slices.Equal(got, after) {
+			t.Error("what was answered is gone")
 		}
 	}
 	if seen[0] == 0 || seen[1] == 0 {

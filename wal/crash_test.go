@@ -6,38 +6,9 @@ import (
 	"testing"
 
 	"dunnage/api"
+	"dunnage/crashes"
 	"dunnage/disk"
 )
-
-// crashes are all disks that a crash may leave of this one.
-func crashes(t *testing.T, d *disk.Disk) []*disk.Disk {
-	t.Helper()
-	_, writes := d.Waiting()
-	var all []*disk.Disk
-	keep := make([]int, len(writes))
-	for {
-		left, e := d.Crash(keep...)
-		wantError(t, "Crash", e, api.OK)
-		all = append(all, left)
-		i := 0
-		for i < len(keep) && keep[i] == writes[i] {
-			keep[i] = 0
-			i++
-		}
-		if i == len(keep) {
-			return all
-		}
-		keep[i]++
-	}
-}
-
-// behind are all disks that a crash leaves behind op k of this one.
-func behind(t *testing.T, d *disk.Disk, k int) []*disk.Disk {
-	t.Helper()
-	cut, e := d.Cut(k)
-	wantError(t, "Cut", e, api.OK)
-	return crashes(t, cut)
-}
 
 // 'A group is written': each write and each flush, in the document's order.
 func TestOpsOfACommit(t *testing.T) {
@@ -103,15 +74,13 @@ func TestCrashWithinACommit(t *testing.T) {
 			t.Fatal("a Commit without a change tells nothing")
 		}
 		head := from + n + 2 // the op that writes the head
-		for k := from; k <= l.Disk().Ops(); k++ {
-			for _, left := range behind(t, l.Disk(), k) {
-				got := told(t, opened(t, left, 4))
-				if !slices.Equal(got, before) && !slices.Equal(got, after) {
-					t.Errorf("%d pages, behind op %d: %v", n, k-from, got)
-				}
-				if k < head && !slices.Equal(got, before) || k > head && !slices.Equal(got, after) {
-					t.Errorf("%d pages, behind op %d: a head that is safe, and nothing else, decides", n, k-from)
-				}
+		for k, left := range crashes.Behind(l.Disk(), from) {
+			got := told(t, opened(t, left, 4))
+			if !slices.Equal(got, before) && !slices.Equal(got, after) {
+				t.Errorf("%d pages, behind op %d: %v", n, k-from, got)
+			}
+			if k < head && !slices.Equal(got, before) || k > head && !slices.Equal(got, after) {
+				t.Errorf("%d pages, behind op %d: a head that is safe, and nothing else, decides", n, k-from)
 			}
 		}
 	}
@@ -127,8 +96,8 @@ func TestCrashWithinAnOpen(t *testing.T) {
 		for _, d := range disks {
 			l := opened(t, d, 3)
 			wantPages(t, "Open behind a crash within Open", l, want...)
-			for k := range l.Disk().Ops() + 1 {
-				next = append(next, behind(t, l.Disk(), k)...)
+			for _, left := range crashes.Behind(l.Disk(), 0) {
+				next = append(next, left)
 			}
 		}
 		disks = fewer(next)
@@ -152,8 +121,8 @@ func TestCommitBehindCrashes(t *testing.T) {
 	wantError(t, "Commit", l.Commit(page(1, 51), page(2, 52), page(0, 50)), api.OK)
 	before, after := []int{4, 5, 6, 7}, []int{50, 51, 52, 7}
 	var disks []*disk.Disk
-	for k := range l.Disk().Ops() + 1 {
-		disks = append(disks, behind(t, l.Disk(), k)...)
+	for _, left := range crashes.Behind(l.Disk(), 0) {
+		disks = append(disks, left)
 	}
 	for _, d := range fewer(disks) {
 		m := opened(t, d, 3)
@@ -161,13 +130,11 @@ func TestCommitBehindCrashes(t *testing.T) {
 		if !slices.Equal(want, before) && !slices.Equal(want, after) {
 			t.Errorf("behind one crash: %v", want)
 		}
-		for k := range m.Disk().Ops() + 1 {
-			for _, left := range behind(t, m.Disk(), k) {
-				again := opened(t, left, 3)
-				wantPages(t, "behind two crashes", again, want...)
-				wantError(t, "Commit", again.Commit(page(3, 60), page(1, 61)), api.OK)
-				wantPages(t, "Commit behind two crashes", again, want[0], 61, want[2], 60)
-			}
+		for _, left := range crashes.Behind(m.Disk(), 0) {
+			again := opened(t, left, 3)
+			wantPages(t, "behind two crashes", again, want...)
+			wantError(t, "Commit", again.Commit(page(3, 60), page(1, 61)), api.OK)
+			wantPages(t, "Commit behind two crashes", again, want[0], 61, want[2], 60)
 		}
 	}
 }

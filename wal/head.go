@@ -6,9 +6,10 @@ import (
 	"slices"
 
 	"dunnage/api"
+	"dunnage/octets"
 )
 
-// Of a head: its first bytes, where COUNT stands, and where the numbers do.
+// Of a head: its first bytes, where COUNT stands, and where the numbers do, of two bytes each.
 const (
 	mark      = "\x44\x4e"
 	countAt   = 2
@@ -26,9 +27,9 @@ func (g group) numbers() []int {
 func headOf(numbers []int) []byte {
 	head := make([]byte, api.SectorBytes)
 	copy(head, mark)
-	putPair(head, countAt, len(numbers))
+	octets.Put(head[countAt:numbersAt], len(numbers))
 	for i, n := range numbers {
-		putPair(head, numbersAt+2*i, n)
+		octets.Put(numberIn(head, i), n)
 	}
 	return head
 }
@@ -39,14 +40,14 @@ func (a layout) numbers() ([]int, bool) {
 	if bytes.Equal(head, make([]byte, api.SectorBytes)) {
 		return nil, true
 	}
-	count := pair(head, countAt)
+	count := octets.Number(head[countAt:numbersAt])
 	if count > a.capacity() {
 		return nil, false
 	}
 	numbers := make([]int, count)
 	last := -1
 	for i := range numbers {
-		n := pair(head, numbersAt+2*i)
+		n := octets.Number(numberIn(head, i))
 		if n <= last || !a.has(n) {
 			return nil, false
 		}
@@ -56,10 +57,7 @@ func (a layout) numbers() ([]int, bool) {
 	return numbers, bytes.Equal(head, headOf(numbers))
 }
 
-func putPair(b []byte, at, x int) {
-	b[at], b[at+1] = byte(x>>8), byte(x)
-}
-
-func pair(b []byte, at int) int {
-	return int(b[at])<<8 | int(b[at+1])
+// numberIn is where the number of the log's page i stands.
+func numberIn(head []byte, i int) []byte {
+	return head[numbersAt+2*i:][:2]
 }
