@@ -196,3 +196,39 @@ func TestJustWhatIsTold(t *testing.T) {
 		t.Errorf("told and not: %v", seen)
 	}
 }
+
+// P14.1: whatever layer.Changes tells is no ErrForm: entries by a rule, with names and links about as long as they may be
+func TestWhateverIsTold(t *testing.T) {
+	next := row(9)
+	name := func(most int) string {
+		s := []string{"", "/", "./"}[next(3)]
+		for len(s) < most-60 {
+			s += many(1+next(59)) + "/"
+		}
+		if next(8) == 0 {
+			return s + ".wh..wh..opq"
+		}
+		return s + []string{"", ".wh."}[next(2)] + many(next(59))
+	}
+	seen := map[api.ChangeKind]int{}
+	for range 60000 {
+		e := api.Entry{Name: name(150 + next(120)), Kind: api.Kind(1 + next(4))}
+		if next(3) == 0 {
+			e.Kind = api.File
+		}
+		if e.Kind == api.Link || e.Kind == api.Hard {
+			e.Link = name(90 + next(20))
+		}
+		l, err, _ := layer.Changes(e)
+		if err != api.OK {
+			continue
+		}
+		seen[l[0].Kind]++
+		if _, err := Apply(nil, l); err == api.ErrForm {
+			t.Fatalf("%q, link %q: error %d", e.Name, e.Link, err)
+		}
+	}
+	if seen[api.Put] < 1000 || seen[api.Whiteout] < 1000 || seen[api.Opaque] < 100 {
+		t.Errorf("of each kind: %v", seen)
+	}
+}
