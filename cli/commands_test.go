@@ -1,6 +1,10 @@
 package cli
 
 import (
+	"bytes"
+	"crypto/sha256"
+	"encoding/binary"
+	"hash/crc32"
 	"strconv"
 	"strings"
 	"testing"
@@ -33,6 +37,37 @@ func TestBlobs(t *testing.T) {
 			wantNo(t, s, command+h, api.ErrNone)
 		}
 	}
+}
+
+// withHolds lets a blob that is the only one have so many holds: its number stands behind its digest in /refs, and the sum at the end.
+func withHolds(t *testing.T, s *Shell, b []byte, holds int) {
+	t.Helper()
+	f := s.Store().Blobs().FS()
+	refs, e := f.Read("/refs")
+	wantError(t, "Read", e, api.OK)
+	h := sha256.Sum256(b)
+	at, end := bytes.Index(refs, h[:])+len(h), len(refs)-4
+	copy(refs[at:], []byte{byte(holds >> 16), byte(holds >> 8), byte(holds)})
+	binary.BigEndian.PutUint32(refs[end:], crc32.Checksum(refs[:end], crc32.MakeTable(crc32.Castagnoli)))
+	wantError(t, "Write", f.Write("/refs", 420, refs...), api.OK)
+}
+
+// P16.1 (put): MaxHolds holds, and one more; a blob whose bytes are others
+func TestPutErrors(t *testing.T) {
+	s := made(t, 400)
+	a := digestOf([]byte("a"))
+	want(t, s, "put 61", "ok "+a)
+	withHolds(t, s, []byte("a"), api.MaxHolds-1)
+	want(t, s, "count "+a, "ok 1048575 1048575")
+	want(t, s, "put 61", "ok "+a)
+	want(t, s, "count "+a, "ok 1048576 1048576")
+	wantNo(t, s, "put 61", api.ErrRange)
+	want(t, s, "release "+a, "ok")
+	want(t, s, "put 61", "ok "+a)
+	wantNo(t, s, "put 61", api.ErrRange)
+	wantError(t, "Write", s.Store().Blobs().FS().Write("/blobs/"+a[:6]+"/"+a[6:], 292, 'b'), api.OK)
+	want(t, s, "tags", "ok")
+	wantNo(t, s, "put 61", api.ErrDigest)
 }
 
 // P16.1: tag, untag, tags, pin, unpin, pins, and what they refuse
